@@ -7,6 +7,7 @@ import (
 
 	"marshalling/api"
 	"marshalling/arena"
+	"marshalling/testrows"
 )
 
 // face is an arena of whatever type, into which numbers are put.
@@ -97,14 +98,6 @@ func (m *model) handles(owner int) []api.Handle {
 	return all
 }
 
-// draws is a row of numbers that look like chance, and are the same each time.
-func draws(seed uint64) func(n int) int {
-	return func(n int) int {
-		seed = seed*6364136223846793005 + 1442695040888963407
-		return int(seed>>33) % n
-	}
-}
-
 // someHandle is one of those that were told, at times with another slot or generation.
 func someHandle(draw func(int) int, told []api.Handle, size int) api.Handle {
 	if len(told) == 0 || draw(8) == 0 {
@@ -124,7 +117,7 @@ func someHandle(draw func(int) int, told []api.Handle, size int) api.Handle {
 
 func TestArenasAreAsTheModel(t *testing.T) { // P2.1 to P2.6
 	for _, size := range []int{1, 2, 7, 64, 65, 150} {
-		draw := draws(uint64(size))
+		draw := testrows.Draws(uint64(size))
 		p := newPool(t, size)
 		faces, m := facesOf(p), newModel(size)
 		var told []api.Handle

@@ -8,6 +8,7 @@ import (
 
 	"marshalling/api"
 	"marshalling/blnode"
+	"marshalling/testrows"
 )
 
 // alphabet are keys of which some begin others, and bytes of 128 and more.
@@ -325,22 +326,6 @@ func TestEveryShortNodeIsRightOrItself(t *testing.T) { // P9.1, P9.2, P9.3, P9.4
 	}
 }
 
-// draws tells numbers below n, one behind the other, the same ones of the same seed.
-func draws(seed uint64) func(n int) int {
-	return func(n int) int {
-		seed = seed*6364136223846793005 + 1442695040888963407
-		return int(seed>>33) % n
-	}
-}
-
-func drawKey(draw func(n int) int) string {
-	b := make([]byte, draw(4))
-	for k := range b {
-		b[k] = []byte{0, 'a', 0x7f, 0x80, 0xff}[draw(5)]
-	}
-	return string(b)
-}
-
 // level is a row of nodes, each the right neighbour of the one ahead of it; the place k has the handle of k+1.
 type level struct {
 	nodes []blnode.Node
@@ -392,11 +377,11 @@ func (l *level) holdLevel(t *testing.T) (keys []string) {
 
 func TestRowsOfNodesGrow(t *testing.T) { // P9.3, P9.4, P9.6
 	for seed := range 100 {
-		draw := draws(uint64(seed))
+		draw := testrows.Draws(uint64(seed))
 		leaves, above := &level{nodes: []blnode.Node{{Leaf: true}}}, &level{nodes: []blnode.Node{inner()}}
 		want := map[string]string{}
 		for range 200 {
-			key, value := drawKey(draw), drawKey(draw)
+			key, value := testrows.Text(draw, 3), testrows.Text(draw, 3)
 			kid, ok := above.nodes[above.of(key)].Kid(key)
 			at := leaves.of(key)
 			if !ok || kid != handle(at+1) {

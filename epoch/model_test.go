@@ -7,6 +7,7 @@ import (
 	"testing"
 
 	"marshalling/epoch"
+	"marshalling/testrows"
 )
 
 // calls are an Epoch's, which the model has, too.
@@ -181,45 +182,20 @@ func holdAgainst(t *testing.T, row []act) {
 	}
 }
 
-// rows goes over all rows of n of the acts.
-func rows(n int, acts []act, do func(row []act)) {
-	row := make([]act, n)
-	var fill func(at int)
-	fill = func(at int) {
-		if at == n {
-			do(row)
-			return
-		}
-		for _, a := range acts {
-			row[at] = a
-			fill(at + 1)
-		}
-	}
-	fill(0)
-}
-
 func TestEveryRowOfCallsIsAsTheModel(t *testing.T) { // P4.1, P4.2, P4.3, P4.5
 	acts := []act{{kind: pin, task: 1}, {kind: unpin, task: 1}, {kind: pin, task: -2}, {kind: unpin, task: -2}, {kind: retire}, {kind: collect}}
-	rows(7, acts, func(row []act) { holdAgainst(t, row) })
+	testrows.Each(7, acts, func(row []act) { holdAgainst(t, row) })
 }
 
 func TestEveryRowWithinAFunctionIsAsTheModel(t *testing.T) { // P4.3, P4.5
 	acts := []act{{kind: pin, task: 1}, {kind: unpin, task: 1}, {kind: retire}, {kind: collect}, {kind: fall}}
-	rows(4, acts, func(inside []act) {
+	testrows.Each(4, acts, func(inside []act) {
 		holdAgainst(t, []act{
 			{kind: retire}, {kind: retire, inside: inside}, {kind: pin, task: 1}, {kind: retire}, {kind: retire, inside: inside},
 			{kind: pin, task: 2}, {kind: retire}, {kind: unpin, task: 2}, {kind: pin, task: 2}, {kind: collect}, {kind: collect},
 			{kind: unpin, task: 1}, {kind: collect}, {kind: unpin, task: 2}, {kind: collect}, {kind: collect},
 		})
 	})
-}
-
-// draws is a row of numbers that look like chance, and are the same each time.
-func draws(seed uint64) func(n int) int {
-	return func(n int) int {
-		seed = seed*6364136223846793005 + 1442695040888963407
-		return int(seed>>33) % n
-	}
 }
 
 // drawn is an act that draw chooses, its functions at most depth deep.
@@ -235,7 +211,7 @@ func drawn(draw func(n int) int, tasks, depth int) act {
 
 func TestLongRowsAreAsTheModel(t *testing.T) { // P4.1, P4.2, P4.3, P4.5
 	for seed := range uint64(60) {
-		draw := draws(seed)
+		draw := testrows.Draws(seed)
 		tasks := 1 + draw(12)
 		var row []act
 		for range 1500 {
@@ -247,7 +223,7 @@ func TestLongRowsAreAsTheModel(t *testing.T) { // P4.1, P4.2, P4.3, P4.5
 
 func TestWhenAllAreUnpinnedOneCollectRunsAll(t *testing.T) { // P4.5
 	for seed := range uint64(300) {
-		draw := draws(seed)
+		draw := testrows.Draws(seed)
 		e, runs, names := epoch.New(), map[int]int{}, 0
 		for range 200 {
 			switch task := draw(6); draw(4) {
@@ -286,7 +262,7 @@ type looker struct {
 
 func TestNothingIsRunWhileSomebodyLooks(t *testing.T) { // P4.5
 	for seed := range uint64(300) {
-		draw := draws(seed)
+		draw := testrows.Draws(seed)
 		e, l, runs := epoch.New(), &looker{since: map[int]int{}}, map[int]int{}
 		step := func(again func()) {
 			l.now++

@@ -5,6 +5,7 @@ import (
 
 	"marshalling/api"
 	"marshalling/history"
+	"marshalling/testrows"
 )
 
 // count is how many events of that kind and Id are in l.
@@ -107,34 +108,17 @@ func holdRow(t *testing.T, l []api.Event, ids int) {
 	}
 }
 
-// rows goes over all rows of n of the events.
-func rows(n int, events []api.Event, do func(l []api.Event)) {
-	row := make([]api.Event, n)
-	var fill func(at int)
-	fill = func(at int) {
-		if at == n {
-			do(row)
-			return
-		}
-		for _, e := range events {
-			row[at] = e
-			fill(at + 1)
-		}
-	}
-	fill(0)
-}
-
 func TestEveryShortRowIsAsTheModel(t *testing.T) { // P6.2, P6.3
 	events := []api.Event{
 		begun(1, get), begun(1, put), marked(1, none), marked(1, found), ended(1, none), ended(1, found),
 		begun(2, api.Op{Writes: []api.Write{}}), marked(2, none), ended(2, none),
 	}
 	for n := range 6 {
-		rows(n, events, func(l []api.Event) { holdRow(t, l, 4) })
+		testrows.Each(n, events, func(l []api.Event) { holdRow(t, l, 4) })
 	}
 	more := append(events, begun(0, get), marked(0, none), ended(-1, none), api.Event{Id: 1}, api.Event{Kind: 4, Id: 1}, api.Event{Kind: 1, Id: 1, Answer: found}, api.Event{Kind: 2, Id: 1, Op: put}, api.Event{Kind: 3, Id: 1, Op: put})
 	for n := range 5 {
-		rows(n, more, func(l []api.Event) { holdRow(t, l, 4) })
+		testrows.Each(n, more, func(l []api.Event) { holdRow(t, l, 4) })
 	}
 }
 
@@ -176,15 +160,7 @@ func holdCalls(t *testing.T, l []api.Event) []api.Event {
 func TestEveryShortRowOfCallsIsAsTheModel(t *testing.T) { // P6.1, P6.4
 	events := []api.Event{begun(1, put), marked(1, none), marked(1, found), ended(1, none), begun(2, get), marked(2, found), ended(2, none), begun(0, get)}
 	for n := range 7 {
-		rows(n, events, func(l []api.Event) { holdCalls(t, l) })
-	}
-}
-
-// draws is a row of numbers that look like chance, and are the same each time.
-func draws(seed uint64) func(n int) int {
-	return func(n int) int {
-		seed = seed*6364136223846793005 + 1442695040888963407
-		return int(seed>>33) % n
+		testrows.Each(n, events, func(l []api.Event) { holdCalls(t, l) })
 	}
 }
 
@@ -217,7 +193,7 @@ func drawn(draw func(n int) int, n, ids int) []api.Event {
 
 func TestLongRowsAreAsTheModel(t *testing.T) { // P6.1, P6.2, P6.3
 	for seed := range uint64(200) {
-		draw := draws(seed)
+		draw := testrows.Draws(seed)
 		l := drawn(draw, 60, 2+draw(9))
 		holdRow(t, l, 4)
 		holdCalls(t, l)
@@ -226,7 +202,7 @@ func TestLongRowsAreAsTheModel(t *testing.T) { // P6.1, P6.2, P6.3
 
 func TestTheMarksKeepToAhead(t *testing.T) { // P6.4
 	for seed := range uint64(200) {
-		draw := draws(seed)
+		draw := testrows.Draws(seed)
 		l := holdCalls(t, drawn(draw, 80, 2+draw(15)))
 		marks := history.Marks(l)
 		for i, a := range marks {
@@ -241,7 +217,7 @@ func TestTheMarksKeepToAhead(t *testing.T) { // P6.4
 
 func TestEachBeginningOfARightRowIsRight(t *testing.T) { // P6.4
 	for seed := range uint64(50) {
-		draw := draws(seed)
+		draw := testrows.Draws(seed)
 		l := holdCalls(t, drawn(draw, 60, 2+draw(15)))
 		for n := range l {
 			wantCheck(t, l[:n], -1)

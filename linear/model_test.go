@@ -8,6 +8,7 @@ import (
 	"marshalling/history"
 	"marshalling/linear"
 	"marshalling/omap"
+	"marshalling/testrows"
 )
 
 // wantSomeOf is wantSome of pairs that are too many to be told.
@@ -162,14 +163,6 @@ func TestEveryRowOfThreeIsAsTheModel(t *testing.T) { // P8.1, P8.2, P8.3
 	}
 }
 
-// draws tells numbers below n, one behind the other, the same ones of the same seed.
-func draws(seed uint64) func(n int) int {
-	return func(n int) int {
-		seed = seed*6364136223846793005 + 1442695040888963407
-		return int(seed>>33) % n
-	}
-}
-
 // drawOp is an operation on few keys, so that many of them meet.
 func drawOp(draw func(n int) int) api.Op {
 	key := func() string { return []string{"", "a", "a\x00", "b", "\x80"}[draw(5)] }
@@ -246,7 +239,7 @@ func spoilt(draw func(n int) int, l []api.Event) []api.Event {
 
 func TestPlayedRowsAreAsTheModel(t *testing.T) { // P8.1, P8.2, P8.3
 	for seed := range uint64(4000) {
-		draw := draws(seed)
+		draw := testrows.Draws(seed)
 		start, n := drawStart(draw), 1+draw(5)
 		l := played(draw, start, n, 4*n)
 		holdRow(t, start, l)
@@ -258,7 +251,7 @@ func TestPlayedRowsAreAsTheModel(t *testing.T) { // P8.1, P8.2, P8.3
 
 func TestWhatCheckFindsRightSomeFindsRightToo(t *testing.T) { // P8.3
 	for seed := range uint64(2000) {
-		draw := draws(seed)
+		draw := testrows.Draws(seed)
 		start, n := drawStart(draw), 1+draw(7)
 		l := played(draw, start, n, 5*n)
 		wantCheck(t, start, l, -1)
@@ -268,7 +261,7 @@ func TestWhatCheckFindsRightSomeFindsRightToo(t *testing.T) { // P8.3
 
 func TestEachBeginningOfARightRowIsRight(t *testing.T) { // P8.3
 	for seed := range uint64(200) {
-		draw := draws(seed)
+		draw := testrows.Draws(seed)
 		start := drawStart(draw)
 		l := played(draw, start, 30, 150)
 		for n := range len(l) + 1 {
@@ -303,7 +296,7 @@ func apart(a, b api.Op) bool {
 func TestMarksOfOtherKeysMayChangePlaces(t *testing.T) { // P8.3
 	changed := 0
 	for seed := range uint64(500) {
-		draw := draws(seed)
+		draw := testrows.Draws(seed)
 		start := drawStart(draw)
 		l := played(draw, start, 20, 80)
 		want := linear.After(start, l)

@@ -8,6 +8,7 @@ import (
 
 	"marshalling/api"
 	"marshalling/omap"
+	"marshalling/testrows"
 )
 
 // model is the document's table said once more, of a map of the language's own.
@@ -104,23 +105,6 @@ func holdMap(t *testing.T, m *omap.Map, want model, keys []string) {
 	}
 }
 
-// rows goes over all rows of n of the operations.
-func rows(n int, ops []api.Op, do func(l []api.Op)) {
-	row := make([]api.Op, n)
-	var fill func(at int)
-	fill = func(at int) {
-		if at == n {
-			do(row)
-			return
-		}
-		for _, op := range ops {
-			row[at] = op
-			fill(at + 1)
-		}
-	}
-	fill(0)
-}
-
 func TestEveryShortRowIsAsTheModel(t *testing.T) { // P7.2, P7.4
 	keys := []string{"", "a", "a\x00", "b", "\x80"}
 	ops := []api.Op{{}, {Kind: 7, Key: "a"}, put("a", strings.Repeat("v", 33)), batch(gone("a"), gone(strings.Repeat("k", 25))), batch()}
@@ -129,7 +113,7 @@ func TestEveryShortRowIsAsTheModel(t *testing.T) { // P7.2, P7.4
 	}
 	ops = append(ops, batch(gone("a"), write("\x80", "1")), batch(write("a", "1"), write("a", "2"), gone("\x80")), batch(write("a", "1"), gone("a")))
 	for n := range 4 {
-		rows(n, ops, func(l []api.Op) {
+		testrows.Each(n, ops, func(l []api.Op) {
 			m, want := omap.New(nil), model{}
 			for _, op := range l {
 				wantDo(t, m, op, want.do(op))
@@ -139,46 +123,29 @@ func TestEveryShortRowIsAsTheModel(t *testing.T) { // P7.2, P7.4
 	}
 }
 
-// draws tells numbers below n, one behind the other, the same ones of the same seed.
-func draws(seed uint64) func(n int) int {
-	return func(n int) int {
-		seed = seed*6364136223846793005 + 1442695040888963407
-		return int(seed>>33) % n
-	}
-}
-
-// text is up to most of a few bytes, so that many texts are alike, or begin alike.
-func text(draw func(n int) int, most int) string {
-	b := make([]byte, draw(most+1))
-	for k := range b {
-		b[k] = []byte{0, 'a', 0x7f, 0x80, 0xff}[draw(5)]
-	}
-	return string(b)
-}
-
 func drawOp(draw func(n int) int) api.Op {
-	op := api.Op{Kind: uint8(1 + draw(6)), Key: text(draw, 3), Value: text(draw, 1), Old: text(draw, 1), Had: draw(2) == 0, After: draw(2) == 0}
+	op := api.Op{Kind: uint8(1 + draw(6)), Key: testrows.Text(draw, 3), Value: testrows.Text(draw, 1), Old: testrows.Text(draw, 1), Had: draw(2) == 0, After: draw(2) == 0}
 	for range draw(10) {
-		op.Writes = append(op.Writes, api.Write{Key: text(draw, 3), Value: text(draw, 1), Gone: draw(2) == 0})
+		op.Writes = append(op.Writes, api.Write{Key: testrows.Text(draw, 3), Value: testrows.Text(draw, 1), Gone: draw(2) == 0})
 	}
 	switch draw(20) {
 	case 0:
 		op.Kind = uint8(draw(256))
 	case 1:
-		op.Key = text(draw, 27)
+		op.Key = testrows.Text(draw, 27)
 	case 2:
-		op.Value = text(draw, 36)
+		op.Value = testrows.Text(draw, 36)
 	case 3:
-		op.Old = text(draw, 36)
+		op.Old = testrows.Text(draw, 36)
 	case 4:
-		op.Writes = append(op.Writes, api.Write{Key: text(draw, 27), Value: text(draw, 36), Gone: draw(2) == 0})
+		op.Writes = append(op.Writes, api.Write{Key: testrows.Text(draw, 27), Value: testrows.Text(draw, 36), Gone: draw(2) == 0})
 	}
 	return op
 }
 
 func TestLongRowsAreAsTheModel(t *testing.T) { // P7.1, P7.2, P7.4
 	for seed := range 200 {
-		draw := draws(uint64(seed))
+		draw := testrows.Draws(uint64(seed))
 		m, want := omap.New(nil), model{}
 		for range 300 {
 			op := drawOp(draw)
@@ -187,7 +154,7 @@ func TestLongRowsAreAsTheModel(t *testing.T) { // P7.1, P7.2, P7.4
 			}
 			wantDo(t, m, op, want.do(op))
 			if draw(20) == 0 {
-				holdMap(t, m, want, []string{op.Key[:min(3, len(op.Key))], text(draw, 3)})
+				holdMap(t, m, want, []string{op.Key[:min(3, len(op.Key))], testrows.Text(draw, 3)})
 			}
 		}
 		holdMap(t, m, want, nil)
@@ -200,14 +167,14 @@ func TestLongRowsAreAsTheModel(t *testing.T) { // P7.1, P7.2, P7.4
 
 func TestNewIsPutsOneBehindTheOther(t *testing.T) { // P7.1
 	for seed := range 300 {
-		draw := draws(uint64(seed))
+		draw := testrows.Draws(uint64(seed))
 		var l []api.Pair
 		want := model{}
 		for range draw(60) {
-			l = append(l, has(text(draw, 2), text(draw, 3)))
+			l = append(l, has(testrows.Text(draw, 2), testrows.Text(draw, 3)))
 			want[l[len(l)-1].Key] = l[len(l)-1].Value
 		}
-		holdMap(t, omap.New(l), want, []string{text(draw, 2), text(draw, 3)})
+		holdMap(t, omap.New(l), want, []string{testrows.Text(draw, 2), testrows.Text(draw, 3)})
 	}
 }
 
@@ -220,7 +187,7 @@ func names(op api.Op, key string) bool {
 }
 
 func TestNoOtherKeyIsTouched(t *testing.T) { // P7.4
-	draw := draws(7)
+	draw := testrows.Draws(7)
 	m := omap.New(nil)
 	for range 20000 {
 		op := drawOp(draw)
@@ -238,7 +205,7 @@ func TestNoOtherKeyIsTouched(t *testing.T) { // P7.4
 }
 
 func TestABatchIsItsWritesAsPutsAndDeletes(t *testing.T) { // P7.4
-	draw := draws(9)
+	draw := testrows.Draws(9)
 	one, two := omap.New(nil), omap.New(nil)
 	for range 5000 {
 		op := drawOp(draw)

@@ -8,6 +8,7 @@ import (
 
 	"marshalling/api"
 	"marshalling/tasks"
+	"marshalling/testrows"
 )
 
 // deferred are programs that others defer, by their names.
@@ -234,14 +235,6 @@ func (b *both) checkTasks(t *testing.T) {
 	}
 }
 
-// draws is a row of numbers that look drawn, always the same for a seed.
-func draws(seed uint64) func(n int) int {
-	return func(n int) int {
-		seed = seed*6364136223846793005 + 1442695040888963407
-		return int(seed>>33) % n
-	}
-}
-
 func TestEveryShortRowOfCalls(t *testing.T) { // P5.1, P5.2, P5.3, P5.4
 	step, stepOf, spawn := 0, 3, 4
 	alphabet := []int{step + 8*2, step + 8*3, step + 8*4, stepOf + 8*1, stepOf + 8*2, spawn + 8*3, spawn + 8*6, 7}
@@ -263,7 +256,7 @@ func TestEveryShortRowOfCalls(t *testing.T) { // P5.1, P5.2, P5.3, P5.4
 
 func TestLongRowsOfCalls(t *testing.T) { // P5.1, P5.2, P5.3, P5.4
 	for seed := range uint64(150) {
-		draw, b := draws(seed), newBoth()
+		draw, b := testrows.Draws(seed), newBoth()
 		for range 300 {
 			what := draw(8)
 			if what == 7 && draw(40) != 0 {
@@ -314,7 +307,7 @@ func (r *real) goOn(picks []int) []string {
 
 func TestAScriptThatIsCutInTwo(t *testing.T) { // P5.7
 	for seed := range uint64(60) {
-		s := drawScript(draws(seed))
+		s := drawScript(testrows.Draws(seed))
 		whole := s.begin()
 		want := whole.goOn(s.picks)
 		whole.m.Close()
@@ -334,7 +327,7 @@ func TestAScriptThatIsCutInTwo(t *testing.T) { // P5.7
 
 func TestEachStepIsOneTasks(t *testing.T) { // P5.7
 	for seed := range uint64(60) {
-		m, draw := tasks.New(), draws(seed)
+		m, draw := tasks.New(), testrows.Draws(seed)
 		var who []int
 		for range 2 + draw(10) {
 			pauses := draw(5)
@@ -396,7 +389,7 @@ func (n *notes) program(program string) func(x *tasks.Task) {
 
 func TestATaskDoesWhatItDoesAlone(t *testing.T) { // P5.6
 	for seed := range uint64(100) {
-		m, draw := tasks.New(), draws(seed)
+		m, draw := tasks.New(), testrows.Draws(seed)
 		var all []*notes
 		var want [][]string
 		for range 2 + draw(8) {

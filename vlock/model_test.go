@@ -3,6 +3,7 @@ package vlock_test
 import (
 	"testing"
 
+	"marshalling/testrows"
 	"marshalling/vlock"
 )
 
@@ -52,23 +53,6 @@ func cas(old, to parts) call {
 	}}
 }
 
-// rows goes over all rows of n of the calls.
-func rows(n int, calls []call, do func(row []call)) {
-	row := make([]call, n)
-	var fill func(at int)
-	fill = func(at int) {
-		if at == n {
-			do(row)
-			return
-		}
-		for _, x := range calls {
-			row[at] = x
-			fill(at + 1)
-		}
-	}
-	fill(0)
-}
-
 func names(row []call) []string {
 	var all []string
 	for _, x := range row {
@@ -80,7 +64,7 @@ func names(row []call) []string {
 func TestEveryRowOfCallsIsAsTheModel(t *testing.T) { // P3.1 to P3.3
 	open, locked, dead, both := parts{version: 1}, parts{version: last, locked: true}, parts{version: 3, dead: true}, parts{version: last, dead: true, locked: true}
 	calls := []call{take(), give(), end(), store(open), store(locked), store(both), cas(parts{}, open), cas(open, locked), cas(dead, open)}
-	rows(5, calls, func(row []call) {
+	testrows.Each(5, calls, func(row []call) {
 		c, p := &vlock.Cell{}, parts{}
 		for i, x := range row {
 			w, ok := x.ask(c)
@@ -101,7 +85,7 @@ type begun struct {
 }
 
 func TestOptimism(t *testing.T) { // P3.5
-	rows(8, []call{take(), give(), end()}, func(row []call) {
+	testrows.Each(8, []call{take(), give(), end()}, func(row []call) {
 		c := &vlock.Cell{}
 		var readers []begun
 		wrote, taken, ended := 0, false, false
