@@ -18,12 +18,12 @@ type stand struct {
 
 // Check tells whether the tree is as it must be, and reaches each of its nodes; of a dropped one it is true.
 func (t *Tree) Check() bool {
-	if !t.isMade() {
+	if t.made() == nil {
 		return false
 	}
 	var row []stand
 	if t.stands() {
-		row = []stand{{at: t.root}}
+		row = []stand{{at: t.nodes.Root()}}
 	}
 	seen := 0
 	for len(row) > 0 && seen < t.Slots() { // a level that leads back above itself has no end
@@ -38,9 +38,9 @@ func (t *Tree) Check() bool {
 
 // isLevel tells whether the nodes of row are as the level above tells of them, all leaves or none, each the right neighbour of the one ahead of it.
 func (t *Tree) isLevel(row []stand) bool {
-	first, _ := t.nodes.Get(row[0].at)
+	first, _ := t.nodes.At(row[0].at)
 	for i, s := range row {
-		n, ok := t.nodes.Get(s.at)
+		n, ok := t.nodes.At(s.at)
 		if !ok || n.Leaf != first.Leaf || !s.fits(n) || n.Next != nextOf(row, i) {
 			return false
 		}
@@ -52,7 +52,7 @@ func (t *Tree) isLevel(row []stand) bool {
 func (t *Tree) below(row []stand) []stand {
 	var kids []stand
 	for _, s := range row {
-		n, _ := t.nodes.Get(s.at)
+		n, _ := t.nodes.At(s.at)
 		kids = append(kids, s.kids(n)...)
 	}
 	return kids

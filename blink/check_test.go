@@ -9,6 +9,7 @@ import (
 	"marshalling/arena"
 	"marshalling/blink"
 	"marshalling/blnode"
+	"marshalling/testtrees"
 )
 
 // inside are the nodes of a tree. No call makes one wrong, so that these tests reach into its field, if it has that one.
@@ -18,11 +19,16 @@ type inside struct {
 
 func nodesOf(t *testing.T, x *blink.Tree) inside {
 	t.Helper()
-	f := reflect.ValueOf(x).Elem().FieldByName("nodes")
-	if !f.IsValid() || f.Type() != reflect.TypeFor[*arena.Arena[blnode.Node]]() {
-		t.Skip("a tree has no such field")
+	at := reflect.ValueOf(x)
+	for _, name := range []string{"nodes", "things"} {
+		if at = at.Elem().FieldByName(name); at.Kind() != reflect.Pointer {
+			t.Skip("a tree has no such field: " + name)
+		}
 	}
-	return inside{(*arena.Arena[blnode.Node])(f.UnsafePointer())}
+	if at.Type() != reflect.TypeFor[*arena.Arena[blnode.Node]]() {
+		t.Skip("a tree's things are no arena of nodes")
+	}
+	return inside{(*arena.Arena[blnode.Node])(at.UnsafePointer())}
 }
 
 func (in inside) at(h api.Handle) *blnode.Node {
@@ -180,7 +186,7 @@ func harms() map[string]func(in inside) {
 
 func TestCheckTellsWhatIsWrong(t *testing.T) { // P10.3
 	for name, harm := range harms() {
-		x, _ := treeOf(t, orders(20)["rising"]...)
+		x, _ := treeOf(t, testtrees.Orders(20)["rising"]...)
 		in := nodesOf(t, x)
 		if n, _, leaf, right := in.parts(); n.Leaf || !leaf.Leaf || !right.Leaf || len(leaf.Keys) != 2 || !x.Check() {
 			t.Fatalf("not a tree of three levels: %v, %v, %v, Check %v", n, leaf, right, x.Check())

@@ -34,7 +34,7 @@ func (t *Tree) Next(key string, after bool, visit func()) (k, v string, found, a
 		if n.Next == (api.Handle{}) {
 			return "", "", false, false
 		}
-		n, ok = t.look(n.Next, visit)
+		n, ok = t.nodes.Look(n.Next, visit)
 	}
 	return "", "", false, true
 }
@@ -44,19 +44,11 @@ func (t *Tree) reach(key string, visit func()) (*blnode.Node, bool) {
 	if !t.stands() {
 		return nil, false
 	}
-	n, ok := t.look(t.root, visit)
+	n, ok := t.nodes.Look(t.nodes.Root(), visit)
 	for ok && !(n.Leaf && n.Covers(key)) {
-		n, ok = t.look(onward(n, key), visit)
+		n, ok = t.nodes.Look(onward(n, key), visit)
 	}
 	return n, ok
-}
-
-// look is what stands under the handle h once visit is done: whatever was read ahead of that may be so no more.
-func (t *Tree) look(h api.Handle, visit func()) (*blnode.Node, bool) {
-	if visit != nil {
-		visit()
-	}
-	return t.nodes.Get(h)
 }
 
 // onward is where key is to be looked for behind n: below it, or, if n was split on the way there, to the right.

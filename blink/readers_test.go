@@ -10,6 +10,7 @@ import (
 	"marshalling/api"
 	"marshalling/blink"
 	"marshalling/testrows"
+	"marshalling/testtrees"
 )
 
 // watched is a tree, and what is put down of it while a reader is under way.
@@ -101,7 +102,7 @@ func (w *watched) wantNext(t *testing.T, key string, after bool, visit func()) {
 	if again || found && (!is || value != v || k < key || after && k == key) || !found && (k != "" || v != "") {
 		t.Errorf("Next(%q, %v) = %q, %q, %v, %v, where it is not", key, after, k, v, found, again)
 	}
-	if stayed, _, is := least(w.stayed, key, after); is && (!found || stayed < k) {
+	if stayed, _, is := testtrees.Least(w.stayed, key, after); is && (!found || stayed < k) {
 		t.Errorf("Next(%q, %v) = %q, %v, and %q was there all the while", key, after, k, found, stayed)
 	}
 }
@@ -163,9 +164,9 @@ func TestEveryDeedInEveryVisit(t *testing.T) { // P10.4
 	for _, n := range []int{0, 1, 4, 5, 6, 14, 20, 60} {
 		var l []string
 		for i := range n {
-			l = append(l, key(i*2))
+			l = append(l, testtrees.Key(i*2))
 		}
-		for _, look := range []string{"", key(0), key(1), key(n / 2 * 2), key(n + 1), key(2*n - 2 + n%2), key(2 * n), "z"} {
+		for _, look := range []string{"", testtrees.Key(0), testtrees.Key(1), testtrees.Key(n / 2 * 2), testtrees.Key(n + 1), testtrees.Key(2*n - 2 + n%2), testtrees.Key(2 * n), "z"} {
 			for _, d := range deeds() {
 				for at := range 6 {
 					for _, every := range []bool{false, true} {
@@ -203,11 +204,11 @@ func holdReaders(t *testing.T, l []string, look string, d deed, at int, every bo
 func (w *watched) holdAfter(t *testing.T, key string) {
 	t.Helper()
 	if w.gone {
-		wantAgain(t, w.x)
+		testtrees.WantAgain(t, w.x)
 		return
 	}
-	wantAll(t, w.x, w.m)
-	wantEach(t, w.x, w.m, key)
+	testtrees.WantAll(t, w.x, w.m)
+	testtrees.WantEach(t, w.x, w.m, key)
 }
 
 func TestDroppedInAnyVisit(t *testing.T) { // P10.4: again is true from then on, were it the last look but one or the last one
@@ -215,12 +216,14 @@ func TestDroppedInAnyVisit(t *testing.T) { // P10.4: again is true from then on,
 		for i := range n + 1 {
 			for _, read := range []func(x *blink.Tree, visit func()) (string, string, bool, bool){
 				func(x *blink.Tree, visit func()) (string, string, bool, bool) {
-					v, found, again := x.Get(key(i), visit)
+					v, found, again := x.Get(testtrees.Key(i), visit)
 					return "", v, found, again
 				},
-				func(x *blink.Tree, visit func()) (string, string, bool, bool) { return x.Next(key(i), true, visit) },
+				func(x *blink.Tree, visit func()) (string, string, bool, bool) {
+					return x.Next(testtrees.Key(i), true, visit)
+				},
 			} {
-				l := orders(2 * n)["in strides"]
+				l := testtrees.Orders(2 * n)["in strides"]
 				looks := 0
 				x, _ := treeOf(t, l...)
 				read(x, func() { looks++ })
@@ -233,7 +236,7 @@ func TestDroppedInAnyVisit(t *testing.T) { // P10.4: again is true from then on,
 					k, v, found, again := read(x, func() {
 						if seen == at {
 							x.Drop()
-							newTree(t, p).Put(key(i), "another tree's, in the same slot")
+							newTree(t, p).Put(testtrees.Key(i), "another tree's, in the same slot")
 						}
 						seen++
 					})
@@ -251,31 +254,31 @@ func TestReadersThatMeetOtherTrees(t *testing.T) { // P10.4: what is done to ano
 	x, other := newTree(t, p), newTree(t, p)
 	m := map[string]string{}
 	for i := range 60 {
-		x.Put(key(i), "v")
-		other.Put(key(i), "other")
-		m[key(i)] = "v"
+		x.Put(testtrees.Key(i), "v")
+		other.Put(testtrees.Key(i), "other")
+		m[testtrees.Key(i)] = "v"
 	}
 	n := 0
 	visit := func() {
 		n++
 		other.Put(fmt.Sprint(n), "other")
-		other.Delete(key(n))
+		other.Delete(testtrees.Key(n))
 		if n%50 == 0 {
 			other.Drop()
 			other = newTree(t, p)
 		}
 	}
 	for i := range 61 {
-		value, is := m[key(i)]
-		if v, found, again := x.Get(key(i), visit); v != value || found != is || again {
-			t.Errorf("Get(%q) = %q, %v, %v", key(i), v, found, again)
+		value, is := m[testtrees.Key(i)]
+		if v, found, again := x.Get(testtrees.Key(i), visit); v != value || found != is || again {
+			t.Errorf("Get(%q) = %q, %v, %v", testtrees.Key(i), v, found, again)
 		}
-		next, value, is := least(m, key(i), true)
-		if k, v, found, again := x.Next(key(i), true, visit); k != next || v != value || found != is || again {
-			t.Errorf("Next(%q, true) = %q, %q, %v, %v, want %q", key(i), k, v, found, again, next)
+		next, value, is := testtrees.Least(m, testtrees.Key(i), true)
+		if k, v, found, again := x.Next(testtrees.Key(i), true, visit); k != next || v != value || found != is || again {
+			t.Errorf("Next(%q, true) = %q, %q, %v, %v, want %q", testtrees.Key(i), k, v, found, again, next)
 		}
 	}
-	wantAll(t, x, m)
+	testtrees.WantAll(t, x, m)
 }
 
 // TestReadersThatFindOnToTheRight has a key that moves to the right in each visit, till the pool is full.
@@ -288,7 +291,7 @@ func TestReadersThatFindOnToTheRight(t *testing.T) { // P10.4: what is there all
 		visit := func() {
 			for range n {
 				puts++
-				x.Put(key(puts), "new")
+				x.Put(testtrees.Key(puts), "new")
 			}
 		}
 		for range 5 {
@@ -332,12 +335,12 @@ func TestDrawnWritesInVisits(t *testing.T) { // P10.4
 				w.put(key, testrows.Text(draw, 3))
 			}
 		}
-		wantAll(t, w.x, w.m)
+		testtrees.WantAll(t, w.x, w.m)
 	}
 }
 
 func TestHowManyNodesReadersVisit(t *testing.T) { // P10.2, P10.6
-	for name, l := range orders(700) {
+	for name, l := range testtrees.Orders(700) {
 		t.Run(name, func(t *testing.T) {
 			x, _ := treeOf(t)
 			for n, k := range l {
@@ -369,14 +372,14 @@ func looks(x *blink.Tree, key string, after bool) int {
 
 func TestAVisitIsAheadOfEachNode(t *testing.T) { // P10.2: a tree of one node, of two levels, and of three
 	for _, tell := range []struct{ keys, slots, levels int }{{0, 1, 1}, {4, 1, 1}, {5, 3, 2}, {12, 6, 2}, {13, 9, 3}} {
-		x, _ := treeOf(t, orders(14)["rising"][:tell.keys]...)
+		x, _ := treeOf(t, testtrees.Orders(14)["rising"][:tell.keys]...)
 		if x.Slots() != tell.slots {
 			t.Errorf("%d keys: %d nodes, want %d", tell.keys, x.Slots(), tell.slots)
 		}
 		for i := range tell.keys + 1 {
 			n := 0
-			x.Get(key(i), func() { n++ })
-			if next := looks(x, key(i), false); n != tell.levels || next < tell.levels {
+			x.Get(testtrees.Key(i), func() { n++ })
+			if next := looks(x, testtrees.Key(i), false); n != tell.levels || next < tell.levels {
 				t.Errorf("%d keys in %d levels: Get visits %d nodes, Next %d", tell.keys, tell.levels, n, next)
 			}
 		}
@@ -384,17 +387,17 @@ func TestAVisitIsAheadOfEachNode(t *testing.T) { // P10.2: a tree of one node, o
 }
 
 func TestAVisitIsAheadOfEachNeighbour(t *testing.T) { // P10.2: put in rising order, each leaf but the last one has two keys
-	x, _ := treeOf(t, orders(40)["rising"]...)
-	down := looks(x, key(0), false)
+	x, _ := treeOf(t, testtrees.Orders(40)["rising"]...)
+	down := looks(x, testtrees.Key(0), false)
 	for i := range 34 {
-		if n, least := looks(x, key(i), true), down+i%2; n < least {
-			t.Errorf("Next(%q, true) visits %d nodes, of at least %d", key(i), n, least)
+		if n, least := looks(x, testtrees.Key(i), true), down+i%2; n < least {
+			t.Errorf("Next(%q, true) visits %d nodes, of at least %d", testtrees.Key(i), n, least)
 		}
 	}
 	for i := 10; i < 20; i++ {
-		x.Delete(key(i)) // five leaves are empty then
-		if n, least := looks(x, key(9), true), down+1+(i-9)/2; n < least {
-			t.Errorf("Next(%q, true) visits %d nodes, of at least %d", key(9), n, least)
+		x.Delete(testtrees.Key(i)) // five leaves are empty then
+		if n, least := looks(x, testtrees.Key(9), true), down+1+(i-9)/2; n < least {
+			t.Errorf("Next(%q, true) visits %d nodes, of at least %d", testtrees.Key(9), n, least)
 		}
 	}
 }
